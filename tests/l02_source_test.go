@@ -370,25 +370,33 @@ func TestParseFactAcceptsNothingElse(t *testing.T) {
 	}
 }
 
-func TestSameFacts(t *testing.T) {
-	all := someFacts()
-	if !impl.SameFacts(nil, nil) || !impl.SameFacts(nil, []impl.Fact{}) || !impl.SameFacts(all, deepCopy(all)) {
+// checkSameLists gets different items, and the same ones built again.
+func checkSameLists[T any](t *testing.T, all, again []T, same func(a, b []T) bool) {
+	t.Helper()
+	if !same(nil, nil) || !same(nil, []T{}) || !same(all, again) {
 		t.Error("the same lists differ")
 	}
+	if same(all, again[1:]) || same(all[1:], again) || same(all, nil) || same(nil, make([]T, 1)) || same(make([]T, 1), nil) {
+		t.Error("lists of different lengths are the same")
+	}
+	for i, a := range all {
+		for k, b := range again {
+			if got := same([]T{all[0], a}, []T{again[0], b}); got != (i == k) {
+				t.Errorf("lists that end with %v and %v are the same: %v", a, b, got)
+			}
+			if got := same([]T{a, b}, []T{b, a}); got != (i == k) {
+				t.Errorf("%v and %v are the same in the other order: %v", a, b, got)
+			}
+		}
+	}
+}
+
+func TestSameFacts(t *testing.T) {
+	checkSameLists(t, someFacts(), someFacts(), impl.SameFacts)
 	if !impl.SameFacts([]impl.Fact{fact(1)}, []impl.Fact{{Rel: 1, Values: []int{}}}) {
 		t.Error("a nil list and an empty one differ")
 	}
-	if impl.SameFacts(all, all[1:]) || impl.SameFacts(all[1:], all) || impl.SameFacts(all, nil) || impl.SameFacts(nil, []impl.Fact{{}}) {
-		t.Error("lists of different lengths are the same")
-	}
-	if impl.SameFacts([]impl.Fact{fact(0, 1), fact(0, 2)}, []impl.Fact{fact(0, 2), fact(0, 1)}) {
+	if impl.SameFacts([]impl.Fact{fact(0, 1, 2)}, []impl.Fact{fact(0, 2, 1)}) {
 		t.Error("the order does not count")
-	}
-	for i, a := range all {
-		for k, b := range all {
-			if got := impl.SameFacts([]impl.Fact{fact(4), a}, []impl.Fact{fact(4), b}); got != (i == k) {
-				t.Errorf("SameFacts of %v and %v = %v", a, b, got)
-			}
-		}
 	}
 }

@@ -366,22 +366,21 @@ func TestQueryInverse(t *testing.T) {
 	}
 }
 
-// Of all strings that differ in a part or two from a valid one, exactly the valid ones are read.
-func TestParseQueryAcceptsNothingElse(t *testing.T) {
-	parts := []string{"", "x", "r", "0", "1", "2", "7", "8", ",", "(", ")", " ", "-", "+", "yes", "if", "and", " if ", " and ", "x0", "x1,", ",9", " and r0(x1)", " and r1(3,x0)", "r0(x1)", "\x00", "\xff"}
-	s := []int{1, 2}
+// checkAcceptsNothingElse changes texts in a place or two, and compares a parser with a reader that does without the program.
+func checkAcceptsNothingElse[T any](t *testing.T, s []int, texts, parts []string, parse, read func([]int, string) (T, bool), equal func(a, b T) bool) {
+	t.Helper()
 	accepted := 0
 	check := func(text string) {
-		want, valid := readQuery(s, text)
-		got, ok := impl.ParseQuery(s, text)
-		if ok != valid || !equalQueries(got, want) {
-			t.Fatalf("ParseQuery(%q) = %v, %v, want %v, %v", text, got, ok, want, valid)
+		want, valid := read(s, text)
+		got, ok := parse(s, text)
+		if ok != valid || !equal(got, want) {
+			t.Fatalf("%q is parsed as %v, %v, want %v, %v", text, got, ok, want, valid)
 		}
 		if ok {
 			accepted++
 		}
 	}
-	for _, text := range []string{"yes if r0(4)", "x0 if r0(x0)", "x1,x0 if r1(x0,x1)", "yes if r0(x0) and r1(2,x1)", "x7,x1,x7 if r1(x7,x1) and r0(1) and r0(2) and r0(2)"} {
+	for _, text := range texts {
 		for at := range len(text) + 1 {
 			for end := at; end <= min(at+4, len(text)); end++ {
 				for _, a := range parts {
@@ -395,6 +394,12 @@ func TestParseQueryAcceptsNothingElse(t *testing.T) {
 	if accepted < 100 {
 		t.Errorf("only %d accepted", accepted)
 	}
+}
+
+func TestParseQueryAcceptsNothingElse(t *testing.T) {
+	parts := []string{"", "x", "r", "0", "1", "2", "7", "8", ",", "(", ")", " ", "-", "+", "yes", "if", "and", " if ", " and ", "x0", "x1,", ",9", " and r0(x1)", " and r1(3,x0)", "r0(x1)", "\x00", "\xff"}
+	texts := []string{"yes if r0(4)", "x0 if r0(x0)", "x1,x0 if r1(x0,x1)", "yes if r0(x0) and r1(2,x1)", "x7,x1,x7 if r1(x7,x1) and r0(1) and r0(2) and r0(2)"}
+	checkAcceptsNothingElse(t, []int{1, 2}, texts, parts, impl.ParseQuery, readQuery, equalQueries)
 }
 
 func TestSameQueries(t *testing.T) {

@@ -546,22 +546,12 @@ func TestAddTupleSorts(t *testing.T) {
 }
 
 func TestSameTuples(t *testing.T) {
-	all := someTuples()
-	if !impl.SameTuples(nil, nil) || !impl.SameTuples(nil, [][]int{}) || !impl.SameTuples(all, copyTuples(all)) || !impl.SameTuples([][]int{nil}, [][]int{{}}) {
-		t.Error("the same lists differ")
+	checkSameLists(t, someTuples(), someTuples(), impl.SameTuples)
+	if !impl.SameTuples([][]int{nil}, [][]int{{}}) {
+		t.Error("a nil list and an empty one differ")
 	}
-	if impl.SameTuples(all, all[1:]) || impl.SameTuples(all[1:], all) || impl.SameTuples(all, nil) || impl.SameTuples(nil, [][]int{{}}) || impl.SameTuples([][]int{nil}, nil) {
-		t.Error("lists of different lengths are the same")
-	}
-	if impl.SameTuples([][]int{{1}, {2}}, [][]int{{2}, {1}}) || impl.SameTuples([][]int{{1, 2}}, [][]int{{2, 1}}) || impl.SameTuples([][]int{{1, 2}}, [][]int{{1}, {2}}) {
+	if impl.SameTuples([][]int{{1, 2}}, [][]int{{2, 1}}) || impl.SameTuples([][]int{{1, 2}}, [][]int{{1}, {2}}) {
 		t.Error("the order does not count")
-	}
-	for i, a := range all {
-		for k, b := range all {
-			if got := impl.SameTuples([][]int{{4}, a}, [][]int{{4}, b}); got != (i == k) {
-				t.Errorf("SameTuples of %v and %v = %v", a, b, got)
-			}
-		}
 	}
 }
 
